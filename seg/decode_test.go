@@ -122,6 +122,7 @@ func TestDecodeOtherCount(t *testing.T) {
 }
 
 func TestDecodeEveryPart(t *testing.T) {
+	t.Parallel()
 	for _, l := range lists() {
 		if len(l) > 10 {
 			continue
@@ -372,6 +373,7 @@ func expectAsModel(t *testing.T, x api.Tables, b []byte, n int) api.Errno {
 
 // The bytes of blocks with one of them changed, removed or repeated.
 func TestDecodeChangedBytes(t *testing.T) {
+	t.Parallel()
 	r := random(14)
 	seen := map[api.Errno]int{}
 	for _, l := range lists() {
@@ -401,6 +403,7 @@ func TestDecodeChangedBytes(t *testing.T) {
 
 // All pairs of bytes and many longer texts, with tables of few short codewords.
 func TestDecodeAnyBytes(t *testing.T) {
+	t.Parallel()
 	tables := []api.Tables{
 		{First: chain(0, 1), Rest: chain(0, 1, 240)},
 		{First: chain(12, 0, 11, 13), Rest: chain(240, 0, 11, 241, 16, 225)},

@@ -406,6 +406,38 @@ func TestWordsAgainstModel(t *testing.T) {
 	}
 }
 
+// Codewords and Symbols hold what Words returns, and nothing beside an error.
+func TestMapsAgainstWords(t *testing.T) {
+	eachTable(func(x api.Table) {
+		words, want := Words(x)
+		codewords, e1 := Codewords(x)
+		symbols, e2 := Symbols(x)
+		if e1 != want || e2 != want || len(codewords) != len(words) || len(symbols) != len(words) {
+			t.Fatalf("%v: got %d codewords, %d symbols and the errors %d and %d", x, len(codewords), len(symbols), e1, e2)
+		}
+		for _, w := range words {
+			f := api.Field{Width: w.Long, Value: w.Code}
+			if s, ok := symbols[f]; codewords[w.Sym] != f || s != w.Sym || !ok {
+				t.Errorf("%v: got %v and %d for %v", x, codewords[w.Sym], s, w)
+			}
+		}
+	})
+}
+
+// P2: a map belongs to the caller.
+func TestMapsAreNew(t *testing.T) {
+	x := with([]int{9, 4}, 1, 1)
+	codewords, _ := Codewords(x)
+	symbols, _ := Symbols(x)
+	clear(codewords)
+	clear(symbols)
+	codewords, _ = Codewords(x)
+	symbols, _ = Symbols(x)
+	if codewords[4] != (api.Field{Width: 2, Value: 2}) || symbols[api.Field{Width: 2, Value: 2}] != 4 {
+		t.Error(codewords, symbols)
+	}
+}
+
 func TestEncodeOrdinary(t *testing.T) {
 	x := with([]int{9, 4, 200}, 1, 1, 1)
 	expectEncode(t, x, []int{200, 9, 4}, []byte{0xcb})
