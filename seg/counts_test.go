@@ -7,6 +7,7 @@ import (
 
 	"mezzotint/api"
 	"mezzotint/run"
+	"mezzotint/samples"
 )
 
 var wrongNumbers = []int{-2048, 2048, -2049, 4096, -1 << 32, 1 << 32, math.MinInt, math.MaxInt}
@@ -97,8 +98,8 @@ func TestCountsLarge(t *testing.T) {
 		wrong[at][5] = 2048
 		expectCountsError(t, wrong, api.ErrLarge)
 	}
-	r := random(5)
-	full := r.full(400)
+	r := samples.Sequence(5)
+	full := r.Full(400)
 	first, rest, e := Counts(full)
 	sum := func(l []int) (n int) {
 		for _, x := range l {
@@ -135,16 +136,16 @@ func TestCountsBounds(t *testing.T) {
 // P2: the lists belong to the caller, with their capacity, and the blocks remain as they are.
 func TestCountsAreNew(t *testing.T) {
 	for _, l := range lists() {
-		l = roomy(l, api.Block{9: 2048})
+		l = samples.Roomy(l, api.Block{9: 2048})
 		same := slices.Clone(l[:cap(l)])
 		first, rest, _ := Counts(l)
 		otherFirst, otherRest, _ := Counts(l)
-		overwrite(otherFirst, -7)
-		overwrite(first, -8)
+		samples.Overwrite(otherFirst, -7)
+		samples.Overwrite(first, -8)
 		if !slices.Equal(otherRest, rest) || slices.Contains(rest, -7) || slices.Contains(rest, -8) {
 			t.Error("the two lists share memory")
 		}
-		overwrite(rest, -9)
+		samples.Overwrite(rest, -9)
 		if slices.ContainsFunc(first, func(n int) bool { return n != -8 }) || slices.Contains(otherRest, -9) {
 			t.Error("the lists share memory")
 		}

@@ -8,6 +8,7 @@ import (
 	"testing"
 
 	"mezzotint/api"
+	"mezzotint/samples"
 )
 
 // severalTables returns tables that have all the codewords that the blocks need.
@@ -29,8 +30,8 @@ func TestDecodeThereAndBack(t *testing.T) {
 }
 
 func TestDecodeFullBlocks(t *testing.T) {
-	r := random(12)
-	l := r.full(400)
+	r := samples.Sequence(12)
+	l := r.Full(400)
 	for _, x := range severalTables(t, l) {
 		expectDecode(t, x, modelEncode(x, l), l)
 	}
@@ -58,12 +59,12 @@ func TestDecodeWrongTables(t *testing.T) {
 	for _, w := range wrongTables {
 		for _, b := range [][]byte{nil, {0}, {255}, {255, 1}, {0, 0, 0, 0}} {
 			for _, n := range []int{0, 1, 400, -1, 401, math.MinInt, math.MaxInt} {
-				expectDecodeError(t, api.Tables{First: w.x, Rest: good}, b, n, w.want)
-				expectDecodeError(t, api.Tables{First: w.x}, b, n, w.want)
-				expectDecodeError(t, api.Tables{First: good, Rest: w.x}, b, n, w.want)
-				expectDecodeError(t, api.Tables{Rest: w.x}, b, n, w.want)
+				expectDecodeError(t, api.Tables{First: w.Table, Rest: good}, b, n, w.Error)
+				expectDecodeError(t, api.Tables{First: w.Table}, b, n, w.Error)
+				expectDecodeError(t, api.Tables{First: good, Rest: w.Table}, b, n, w.Error)
+				expectDecodeError(t, api.Tables{Rest: w.Table}, b, n, w.Error)
 				for _, other := range wrongTables {
-					expectDecodeError(t, api.Tables{First: w.x, Rest: other.x}, b, n, w.want)
+					expectDecodeError(t, api.Tables{First: w.Table, Rest: other.Table}, b, n, w.Error)
 				}
 			}
 		}
@@ -374,7 +375,7 @@ func expectAsModel(t *testing.T, x api.Tables, b []byte, n int) api.Errno {
 // The bytes of blocks with one of them changed, removed or repeated.
 func TestDecodeChangedBytes(t *testing.T) {
 	t.Parallel()
-	r := random(14)
+	r := samples.Sequence(14)
 	seen := map[api.Errno]int{}
 	for _, l := range lists() {
 		if len(l) > 10 {
@@ -383,11 +384,11 @@ func TestDecodeChangedBytes(t *testing.T) {
 		for _, x := range severalTables(t, l) {
 			b := modelEncode(x, l)
 			for range min(len(b), 6) {
-				i := r.below(len(b))
+				i := r.Below(len(b))
 				changed := slices.Clone(b)
-				changed[i] ^= 1 << r.below(8)
+				changed[i] ^= 1 << r.Below(8)
 				seen[expectAsModel(t, x, changed, len(l))]++
-				changed[i] = byte(r.below(256))
+				changed[i] = byte(r.Below(256))
 				seen[expectAsModel(t, x, changed, len(l))]++
 				seen[expectAsModel(t, x, slices.Delete(slices.Clone(b), i, i+1), len(l))]++
 				seen[expectAsModel(t, x, slices.Insert(slices.Clone(b), i, b[i]), len(l))]++
@@ -410,17 +411,17 @@ func TestDecodeAnyBytes(t *testing.T) {
 		{First: chain(1, 2), Rest: chain(1, 17, 2, 0)},
 		{First: with([]int{0, 1, 2}, 0, 3), Rest: with([]int{0, 240, 225, 1, 12}, 0, 2, 3)},
 	}
-	r := random(15)
+	r := samples.Sequence(15)
 	for _, x := range tables {
 		for n := range 1 << 16 {
 			expectAsModel(t, x, []byte{byte(n >> 8), byte(n)}, n%5)
 		}
 		for range 20000 {
-			b := make([]byte, 3+r.below(20))
+			b := make([]byte, 3+r.Below(20))
 			for i := range b {
-				b[i] = byte(r.below(255))
+				b[i] = byte(r.Below(255))
 			}
-			expectAsModel(t, x, b, 1+r.below(4))
+			expectAsModel(t, x, b, 1+r.Below(4))
 		}
 	}
 }
@@ -429,16 +430,16 @@ func TestDecodeAnyBytes(t *testing.T) {
 func TestDecodeKeepsArguments(t *testing.T) {
 	for _, l := range lists() {
 		x := bestTables(t, l)
-		x.First.Syms, x.Rest.Syms = roomy(x.First.Syms, -3), roomy(x.Rest.Syms, -4)
-		b := roomy(modelEncode(x, l), 255)
+		x.First.Syms, x.Rest.Syms = samples.Roomy(x.First.Syms, -3), samples.Roomy(x.Rest.Syms, -4)
+		b := samples.Roomy(modelEncode(x, l), 255)
 		first, rest, same := slices.Clone(x.First.Syms[:cap(x.First.Syms)]), slices.Clone(x.Rest.Syms[:cap(x.Rest.Syms)]), slices.Clone(b[:cap(b)])
 		p, _ := Decode(x, b, len(l))
 		q, _ := Decode(x, b, len(l))
-		overwrite(q, api.Block{77})
+		samples.Overwrite(q, api.Block{77})
 		if !slices.Equal(p, l) {
 			t.Error("two results share memory")
 		}
-		overwrite(p, api.Block{78})
+		samples.Overwrite(p, api.Block{78})
 		Decode(x, b[:len(b)+1], len(l))
 		Decode(x, b, len(l)+1)
 		Decode(api.Tables{First: x.First}, b, len(l))

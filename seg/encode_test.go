@@ -6,6 +6,7 @@ import (
 	"testing"
 
 	"mezzotint/api"
+	"mezzotint/samples"
 )
 
 // The document's example.
@@ -115,8 +116,8 @@ func TestEncodeAgainstModel(t *testing.T) {
 
 // ErrLarge is no answer to many tokens.
 func TestEncodeFullBlocks(t *testing.T) {
-	r := random(8)
-	l := r.full(400)
+	r := samples.Sequence(8)
+	l := r.Full(400)
 	for _, x := range []api.Tables{both(flat(9)), both(flat(16)), both(short()), bestTables(t, l)} {
 		expectEncode(t, x, l, modelEncode(x, l))
 	}
@@ -133,16 +134,16 @@ func TestEncodeFullBlocks(t *testing.T) {
 
 // Numbers of fields around those that bits.Write takes in one call: full blocks have 128 fields, and blocks of zeros four.
 func TestEncodeManyFields(t *testing.T) {
-	r := random(6)
+	r := samples.Sequence(6)
 	for n := range 20 {
-		l := append(r.full(154+n/10), r.blocks(n, 64)...)
+		l := append(r.Full(154+n/10), r.Blocks(n, 64)...)
 		l = append(l, make([]api.Block, n)...)
 		for _, x := range []api.Tables{both(flat(9)), both(short())} {
 			expectEncode(t, x, l, modelEncode(x, l))
 		}
 	}
 	// Wherever one call ends within a byte, the next one continues.
-	l := r.full(160)
+	l := r.Full(160)
 	for width := 1; width <= 8; width++ {
 		l[0][1] = 1<<width - 1
 		expectEncode(t, both(flat(9)), l, modelEncode(both(flat(9)), l))
@@ -151,7 +152,7 @@ func TestEncodeManyFields(t *testing.T) {
 	l = make([]api.Block, 320)
 	for k := range l {
 		for i := range l[k] {
-			l[k][i] = 128 + r.below(128)
+			l[k][i] = 128 + r.Below(128)
 		}
 		l[k][0] = 200 * (1 - k%2)
 	}
@@ -164,12 +165,12 @@ func TestEncodeWrongTables(t *testing.T) {
 	good := flat(9)
 	for _, w := range wrongTables {
 		for _, l := range [][]api.Block{nil, {{}}, {{1, 2, 3}}, {{2048}}, make([]api.Block, 400), make([]api.Block, 401), append(make([]api.Block, 400), api.Block{2048})} {
-			expectEncodeError(t, api.Tables{First: w.x, Rest: good}, l, w.want)
-			expectEncodeError(t, api.Tables{First: w.x}, l, w.want)
-			expectEncodeError(t, api.Tables{First: good, Rest: w.x}, l, w.want)
-			expectEncodeError(t, api.Tables{Rest: w.x}, l, w.want)
+			expectEncodeError(t, api.Tables{First: w.Table, Rest: good}, l, w.Error)
+			expectEncodeError(t, api.Tables{First: w.Table}, l, w.Error)
+			expectEncodeError(t, api.Tables{First: good, Rest: w.Table}, l, w.Error)
+			expectEncodeError(t, api.Tables{Rest: w.Table}, l, w.Error)
 			for _, other := range wrongTables {
-				expectEncodeError(t, api.Tables{First: w.x, Rest: other.x}, l, w.want)
+				expectEncodeError(t, api.Tables{First: w.Table, Rest: other.Table}, l, w.Error)
 			}
 		}
 	}
@@ -257,17 +258,17 @@ func TestEncodeOnlyUsedCodewords(t *testing.T) {
 func TestEncodeKeepsArguments(t *testing.T) {
 	for _, l := range lists() {
 		x := bestTables(t, l)
-		x.First.Syms, x.Rest.Syms = roomy(x.First.Syms, -3), roomy(x.Rest.Syms, -4)
-		l = roomy(l, api.Block{7: 2048})
+		x.First.Syms, x.Rest.Syms = samples.Roomy(x.First.Syms, -3), samples.Roomy(x.Rest.Syms, -4)
+		l = samples.Roomy(l, api.Block{7: 2048})
 		first, rest, blocks := slices.Clone(x.First.Syms[:cap(x.First.Syms)]), slices.Clone(x.Rest.Syms[:cap(x.Rest.Syms)]), slices.Clone(l[:cap(l)])
 		want := modelEncode(x, l)
 		a, _ := Encode(x, l)
 		b, _ := Encode(x, l)
-		overwrite(b, 77)
+		samples.Overwrite(b, 77)
 		if !bytes.Equal(a, want) {
 			t.Errorf("two results share memory: got %x, want %x", a, want)
 		}
-		overwrite(a, 78)
+		samples.Overwrite(a, 78)
 		Encode(x, l[:len(l)+1])
 		Encode(api.Tables{First: x.First}, l)
 		Encode(api.Tables{Rest: x.Rest}, l)

@@ -10,6 +10,7 @@ import (
 	"mezzotint/api"
 	"mezzotint/best"
 	"mezzotint/run"
+	"mezzotint/samples"
 	"mezzotint/table"
 	"mezzotint/zig"
 )
@@ -24,42 +25,15 @@ func one(r int) api.Token {
 	return api.Token{Sym: 16*r + 1, Width: 1, Value: 1}
 }
 
-// with returns a table with these symbols, whatever the counts are.
-func with(syms []int, counts ...int) api.Table {
-	t := api.Table{Syms: syms}
-	copy(t.Counts[:], counts)
-	return t
-}
-
-// chain returns a table with the codewords 0, 10, 110 and so on for up to 16 symbols.
-func chain(syms ...int) api.Table {
-	t := api.Table{Syms: syms}
-	for k := range syms {
-		t.Counts[k] = 1
-	}
-	return t
-}
-
-// flat returns a table in which all symbols have codewords of long bits: zeros and, in the last eight bits, the symbol.
-func flat(long int) api.Table {
-	var t api.Table
-	t.Counts[long-1] = 256
-	for s := range 256 {
-		t.Syms = append(t.Syms, s)
-	}
-	return t
-}
-
-// short returns a table in which the symbol 0 has the codeword 0, and the others have codewords of nine bits.
-func short() api.Table {
-	t := flat(9)
-	t.Counts[0], t.Counts[8] = 1, 255
-	return t
-}
-
-func both(t api.Table) api.Tables {
-	return api.Tables{First: t, Rest: t}
-}
+// The samples that these tests use, by short names.
+var (
+	with        = samples.Table
+	chain       = samples.Chain
+	flat        = samples.Flat
+	short       = samples.Short
+	both        = samples.Both
+	wrongTables = samples.WrongTables()
+)
 
 // bestTables returns the tables of least cost for the blocks.
 func bestTables(t *testing.T, l []api.Block) api.Tables {
@@ -266,71 +240,14 @@ func modelDecode(x api.Tables, b []byte, n int) ([]api.Block, api.Errno) {
 	return out, api.OK
 }
 
-// random yields the same numbers in each run of the tests.
-type random uint64
-
-// below returns a number from 0 to n-1.
-func (r *random) below(n int) int {
-	*r = *r*6364136223846793005 + 1442695040888963407
-	return int(uint64(*r)>>33) % n
-}
-
-// coef returns a number in [-2047, 2047]; all sizes are about as frequent.
-func (r *random) coef() int {
-	n := r.below(1 << r.below(12))
-	if r.below(2) == 0 {
-		return -n
-	}
-	return n
-}
-
-// blocks returns n blocks in which about one of share numbers is not 0.
-func (r *random) blocks(n, share int) []api.Block {
-	out := make([]api.Block, n)
-	for k := range out {
-		for i := range out[k] {
-			if r.below(share) == 0 {
-				out[k][i] = r.coef()
-			}
-		}
-	}
-	return out
-}
-
-// full returns n blocks of 64 numbers that are not 0, so that each of them has 64 tokens.
-func (r *random) full(n int) []api.Block {
-	out := make([]api.Block, n)
-	for k := range out {
-		for i := range out[k] {
-			for out[k][i] == 0 {
-				out[k][i] = r.coef()
-			}
-		}
-	}
-	return out
-}
-
 // lists returns lists of few and of many blocks, with few and with many numbers that are not 0.
 func lists() [][]api.Block {
-	r := random(3)
-	out := [][]api.Block{nil, {{}}, {{2047}, {-2047}, {2047}}, {{}, {}, {}, {}}, r.full(1), r.full(3), r.blocks(400, 60)}
+	r := samples.Sequence(3)
+	out := [][]api.Block{nil, {{}}, {{2047}, {-2047}, {2047}}, {{}, {}, {}, {}}, r.Full(1), r.Full(3), r.Blocks(400, 60)}
 	for k := range 60 {
-		out = append(out, r.blocks(1+k%7, 1+k*k%71))
+		out = append(out, r.Blocks(1+k%7, 1+k*k%71))
 	}
 	return out
-}
-
-// wrongTables are tables with the error of table.Check.
-var wrongTables = []struct {
-	x    api.Table
-	want api.Errno
-}{
-	{with([]int{0, 1}, 1), api.ErrForm},
-	{with([]int{0}, -1, 2), api.ErrForm},
-	{with([]int{0, 1}, 2), api.ErrForm},
-	{with([]int{0, 0}, 1, 1), api.ErrForm},
-	{with([]int{0, 256}, 1, 1), api.ErrArg},
-	{with([]int{0, -1}, 1, 1), api.ErrArg},
 }
 
 func expectEncode(t *testing.T, x api.Tables, l []api.Block, want []byte) {
@@ -359,18 +276,4 @@ func expectDecodeError(t *testing.T, x api.Tables, b []byte, n int, want api.Err
 	if l, e := Decode(x, b, n); len(l) != 0 || e != want {
 		t.Errorf("Decode of %d blocks in %x: got %v and the error %d, want the error %d", n, b, l, e, want)
 	}
-}
-
-// overwrite sets all elements of s, including those of its unused capacity.
-func overwrite[T any](s []T, x T) {
-	s = s[:cap(s)]
-	for i := range s {
-		s[i] = x
-	}
-}
-
-// roomy returns the elements of s in a slice with unused capacity, in which spare stands.
-func roomy[T any](s []T, spare T) []T {
-	out := append(slices.Clone(s), spare, spare, spare)
-	return out[:len(s)]
 }
